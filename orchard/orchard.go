@@ -3,6 +3,7 @@ package orchard
 
 import (
 	"orchard/api"
+	"orchard/file"
 	"orchard/frame"
 	"orchard/value"
 )
@@ -59,16 +60,24 @@ func (r *Reader) Feed(b []byte) ([][]byte, api.Errno) {
 }
 
 // Sum tells a sum of bytes (P7).
-func Sum(b []byte) int { return 0 }
+func Sum(b []byte) int { return file.Sum(b) }
 
 // Save makes a file of a tree (P8).
-func Save(version int, number int, nodes []api.Node) ([]byte, api.Errno) { return nil, api.OK }
+func Save(version int, number int, nodes []api.Node) ([]byte, api.Errno) {
+	return file.Save(version, number, nodes)
+}
 
 // Load reads a file (P9).
-func Load(b []byte) (int, int, []api.Node, api.Errno) { return 0, 0, nil, api.OK }
+func Load(b []byte) (int, int, []api.Node, api.Errno) { return file.Load(b) }
 
 // Upgrade makes a file of the newest version of a file (P10).
-func Upgrade(b []byte) ([]byte, api.Errno) { return nil, api.OK }
+func Upgrade(b []byte) ([]byte, api.Errno) {
+	_, number, nodes, errno := file.Load(b)
+	if errno != api.OK {
+		return nil, errno
+	}
+	return file.Save(api.Newest, number, nodes)
+}
 
 // Server keeps a tree.
 type Server struct{}

@@ -64,14 +64,21 @@ func fitsBytes(l letter, s string) bool {
 
 // Decode reads the bytes of a value; false, if they are none of the type.
 func Decode(t Type, b []byte) (api.Value, bool) {
-	if len(b) > api.MaxFrame {
-		return api.Value{}, false
-	}
-	v, rest, ok := take(t, b)
+	v, rest, ok := Take(t, b)
 	if !ok || len(rest) > 0 {
 		return api.Value{}, false
 	}
 	return v, true
+}
+
+// Take reads the value that b begins with, and tells what is left of b; false, if there is none. It looks at no more bytes than a value may have.
+func Take(t Type, b []byte) (api.Value, []byte, bool) {
+	front := b[:min(len(b), api.MaxFrame)]
+	v, rest, ok := take(t, front)
+	if !ok {
+		return api.Value{}, nil, false
+	}
+	return v, b[len(front)-len(rest):], true
 }
 
 // take reads the value that b begins with, and tells what is left of b.
