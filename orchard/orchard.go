@@ -5,6 +5,7 @@ import (
 	"orchard/api"
 	"orchard/file"
 	"orchard/frame"
+	"orchard/server"
 	"orchard/value"
 )
 
@@ -80,25 +81,39 @@ func Upgrade(b []byte) ([]byte, api.Errno) {
 }
 
 // Server keeps a tree.
-type Server struct{}
+type Server struct{ kept *server.Server }
+
+// inner is nil where New has answered no server: calls may be made on that too.
+func (s *Server) inner() *server.Server {
+	if s == nil {
+		return nil
+	}
+	return s.kept
+}
 
 // New makes a server of what is on a disk (P11, P17).
-func New(d *api.Disk) (*Server, api.Errno) { return nil, api.OK }
+func New(d *api.Disk) (*Server, api.Errno) {
+	kept, errno := server.New(d)
+	if errno != api.OK {
+		return nil, errno
+	}
+	return &Server{kept: kept}, api.OK
+}
 
 // Connect makes a session (P12).
-func (s *Server) Connect() (int, api.Errno) { return 0, api.OK }
+func (s *Server) Connect() (int, api.Errno) { return s.inner().Connect() }
 
 // Feed takes in bytes of a session (P13 to P15).
-func (s *Server) Feed(session int, b []byte) api.Errno { return api.OK }
+func (s *Server) Feed(session int, b []byte) api.Errno { return s.inner().Feed(session, b) }
 
 // Take tells what has come out for a session (P12).
-func (s *Server) Take(session int) ([]byte, api.Errno) { return nil, api.OK }
+func (s *Server) Take(session int) ([]byte, api.Errno) { return s.inner().Take(session) }
 
 // Close ends a session (P12).
-func (s *Server) Close(session int) api.Errno { return api.OK }
+func (s *Server) Close(session int) api.Errno { return s.inner().Close(session) }
 
 // Tree tells the number of the last change, and all nodes (P16).
-func (s *Server) Tree() (int, []api.Node) { return 0, nil }
+func (s *Server) Tree() (int, []api.Node) { return s.inner().Tree() }
 
 // Snapshot lays the tree down in a file of its own (P18).
-func (s *Server) Snapshot() api.Errno { return api.OK }
+func (s *Server) Snapshot() api.Errno { return s.inner().Snapshot() }

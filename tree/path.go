@@ -1,4 +1,4 @@
-// Package tree: paths, and what makes nodes a tree.
+// Package tree: paths, what makes nodes a tree, and how a tree is changed.
 package tree
 
 import (
@@ -54,3 +54,6 @@ func Parent(path string) string {
 	}
 	return path[:i]
 }
+
+// lastName is the last name of a path but the root.
+func lastName(path string) string { return path[strings.LastIndexByte(path, '/')+1:] }
