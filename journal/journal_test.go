@@ -188,6 +188,22 @@ func TestRecordsThatAreNone(t *testing.T) {
 	}
 }
 
+// A change is safe with its last step, also where the disk does no other behind that.
+func TestTheLastStepsOfADisk(t *testing.T) {
+	d, h := api.NewDisk()
+	j, x := mustOpen(t, d)
+	h.Stop(2)
+	c := tree.Change{Kind: api.Create, Path: "/a"}
+	if !j.Record(1, c) || !d.Stopped() {
+		t.Fatal("Record is not done with two steps, or needs fewer")
+	}
+	x.Do(c)
+	left, _ := h.Crash(0)
+	if _, y := mustOpen(t, left); !same(x, y) {
+		t.Errorf("behind a crash: %d, %+v", y.Number(), y.Nodes())
+	}
+}
+
 func TestADiskThatIsStopped(t *testing.T) {
 	d, h := api.NewDisk()
 	j, x := mustOpen(t, d)

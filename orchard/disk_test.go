@@ -8,7 +8,7 @@ import (
 	"orchard/orchard"
 )
 
-// Tests of P11, P15 and P18: what has to do with the disk.
+// Tests of P11, P15, P17 and P18: what has to do with the disk.
 
 // lasting: a server on a disk, and the hand of that disk.
 func lasting(t *testing.T) (*orchard.Server, *api.Hand) {
@@ -126,90 +126,6 @@ func TestSnapshotEndsTheLog(t *testing.T) {
 	if sizes[0] == 0 || sizes[0] != sizes[99] {
 		t.Errorf("P18: behind one change the disk has %d bytes, behind a hundred %d", sizes[0], sizes[99])
 	}
-}
-
-// mustBeDown: a server is down; sessions can still be taken from and closed.
-func mustBeDown(t *testing.T, s *orchard.Server, open int, number int, nodes []node) {
-	t.Helper()
-	if n, e := s.Connect(); n != 0 || e != api.ErrDown {
-		t.Errorf("P15: Connect = %d, %d, want ErrDown", n, e)
-	}
-	for _, in := range []string{"", request(api.Ping, 1, ""), four(1001), counted("")} {
-		if e := s.Feed(open, []byte(in)); e != api.ErrDown {
-			t.Errorf("P15: Feed = %d, want ErrDown", e)
-		}
-	}
-	if e := s.Snapshot(); e != api.ErrDown {
-		t.Errorf("P15: Snapshot = %d, want ErrDown", e)
-	}
-	mustTree(t, s, number, nodes)
-	noSession(t, s, 0, 99)
-	if b, e := s.Take(open); len(b) > 0 || e != api.OK {
-		t.Errorf("P15: Take = %x, %d", b, e)
-	}
-	if e := s.Close(open); e != api.OK {
-		t.Errorf("P15: Close = %d", e)
-	}
-	noSession(t, s, open)
-	if n, e := s.Connect(); n != 0 || e != api.ErrDown {
-		t.Errorf("P15: Connect = %d, %d, want ErrDown", n, e)
-	}
-}
-
-// The disk stops at some step: what was made safe has come out, and nothing behind it, for anybody.
-func TestTheServerGoesDown(t *testing.T) {
-	down := 0
-	for steps := range 12 {
-		s, h := lasting(t)
-		a, b := greeted(t, s, 1), greeted(t, s, 2)
-		b.ask(api.List, looking("/", watch), 0, names())
-		b.fail(api.Exists, looking("/b", watch), 0, api.ErrNone)
-		h.Stop(steps)
-		in := request(api.Create, 1, making1("/a", "")) + request(api.Ping, 2, "") + request(api.Create, 3, making1("/b", "")) + request(api.Ping, 4, "") + four(-1)
-		e := s.Feed(a.n, []byte(in))
-		number, l := s.Tree()
-		out := answer(1, 1, api.OK, counted("/a")) + answer(2, 1, api.OK, "")
-		events := event(1, api.Children, "/")
-		want := []node{{Path: "/"}, {Path: "/a", Made: 1, Changed: 1}, {Path: "/b", Made: 2, Changed: 2}}
-		switch number {
-		case 0:
-			out, events = "", ""
-		case 2:
-			out += answer(3, 2, api.OK, counted("/b")) + answer(4, 2, api.OK, "") + fault(2, api.TooLong)
-			events += event(2, api.Created, "/b")
-		}
-		if (e == api.ErrDown) != (number < 2) || e != api.OK && e != api.ErrDown || !sameNodes(l, want[:number+1]) {
-			t.Fatalf("P15: with %d steps: Feed = %d, Tree = %d, %+v", steps, e, number, l)
-		}
-		a.get(out)
-		b.get(events)
-		if e == api.ErrDown {
-			down++
-			mustBeDown(t, s, b.n, number, want[:number+1])
-		}
-	}
-	if down == 0 || down == 12 {
-		t.Errorf("P15: of 12 servers %d went down", down)
-	}
-}
-
-// A disk that is stopped brings a server down at its next change only.
-func TestAServerOnAStoppedDisk(t *testing.T) {
-	s, h := lasting(t)
-	a := greeted(t, s, 2)
-	h.Stop(0)
-	b := greeted(t, s, 1)
-	for _, c := range []*client{a, b} {
-		c.ask(api.Ping, "", 0, "")
-		c.ask(api.List, looking("/", watch), 0, names())
-		c.fail(api.Delete, deleting("/", 0), 0, api.ErrRoot)
-		c.fail(api.Set, setting("/", "", 5), 0, api.ErrVersion)
-	}
-	if e := s.Feed(a.n, []byte(request(api.Set, 1, setting("/", "x", -1)))); e != api.ErrDown {
-		t.Errorf("P15: Feed = %d, want ErrDown", e)
-	}
-	a.get("")
-	mustBeDown(t, s, b.n, 0, root())
 }
 
 // Where the disk stops meanwhile, be it at the last step, New and Snapshot are ErrDown; what is on the disk is the same tree.
